@@ -3,6 +3,7 @@ package order
 
 import (
 	"whenstead/api"
+	"whenstead/set"
 )
 
 // Check tells what is wrong with what stands ahead of what.
@@ -17,13 +18,13 @@ func Behind(r []int) ([]int, error) {
 		return nil, api.ErrFull
 	}
 	for _, s := range r {
-		if !isSet(s, len(r)) {
+		if !set.Is(s, len(r)) {
 			return nil, api.ErrRange
 		}
 	}
 	behind := reached(r)
 	for i, s := range behind {
-		if has(s, i) {
+		if set.Has(s, i) {
 			return nil, api.ErrClash
 		}
 	}
@@ -36,10 +37,10 @@ func Less(r []int, a, b int) (bool, error) {
 	if err != nil {
 		return false, err
 	}
-	if !isThing(a, len(r)) || !isThing(b, len(r)) {
+	if !set.IsThing(a, len(r)) || !set.IsThing(b, len(r)) {
 		return false, api.ErrRange
 	}
-	return has(behind[a], b), nil
+	return set.Has(behind[a], b), nil
 }
 
 // Turned round: what was behind is ahead.
@@ -50,7 +51,7 @@ func Turned(r []int) ([]int, error) {
 	}
 	ahead := make([]int, len(behind))
 	for i, s := range behind {
-		for j := range things(s) {
+		for j := range set.Things(s) {
 			ahead[j] |= 1 << i
 		}
 	}
@@ -63,9 +64,25 @@ func With(r []int, a, b int) ([]int, error) {
 	if err != nil {
 		return nil, err
 	}
-	if !isThing(a, len(r)) || !isThing(b, len(r)) {
+	if !set.IsThing(a, len(r)) || !set.IsThing(b, len(r)) {
 		return nil, api.ErrRange
 	}
 	behind[a] |= 1 << b
 	return Behind(behind)
+}
+
+// reached tells of each thing all that its row leads to, over others, too.
+func reached(r []int) []int {
+	all := make([]int, len(r))
+	copy(all, r)
+	// Each round leads at least one step further, and no way that
+	// comes to a thing for the first time has more steps than there are things.
+	for range r {
+		for i := range all {
+			for j := range set.Things(all[i]) {
+				all[i] |= all[j]
+			}
+		}
+	}
+	return all
 }
