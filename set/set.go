@@ -17,6 +17,9 @@ func Things(s int) func(yield func(int) bool) {
 	}
 }
 
+// Least thing of a set that has one.
+func Least(s int) int { return bits.TrailingZeros(uint(s)) }
+
 // Size tells how many things are in a set.
 func Size(s int) int { return bits.OnesCount(uint(s)) }
 

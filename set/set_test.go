@@ -27,6 +27,9 @@ func TestThings(t *testing.T) {
 		if got := set.Size(c.s); got != len(c.want) {
 			t.Errorf("Size %d: got %d, want %d", c.s, got, len(c.want))
 		}
+		if len(c.want) > 0 && set.Least(c.s) != c.want[0] {
+			t.Errorf("Least %d: got %d, want %d", c.s, set.Least(c.s), c.want[0])
+		}
 		for i := range 64 {
 			if set.Has(c.s, i) != slices.Contains(c.want, i) {
 				t.Errorf("Has %d %d: got %v", c.s, i, set.Has(c.s, i))
