@@ -37,7 +37,7 @@ func sameEvents(t, u api.Trace) bool {
 
 // heardOf gives the name of the event of which one heard; if it was none, what is the name of no event.
 func heardOf(e api.Event, names []name) name {
-	if !heard(e) {
+	if !Heard(e) {
 		return name{-1, -1}
 	}
 	return names[e.From]

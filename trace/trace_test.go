@@ -168,6 +168,15 @@ func tells(t *testing.T, name string, tr api.Trace, want api.Errno) {
 	}
 }
 
+// TestHeard: -1 alone says that an event heard of none.
+func TestHeard(t *testing.T) {
+	for from, want := range map[int]bool{-1: false, 0: true, 1: true, api.MaxEvents - 1: true} {
+		if got := trace.Heard(api.Event{Proc: 1, From: from}); got != want {
+			t.Errorf("From %d: got %v, want %v", from, got, want)
+		}
+	}
+}
+
 // TestOf holds 5.1, at each process, and at such that are none.
 func TestOf(t *testing.T) {
 	for _, c := range []struct {
