@@ -22,7 +22,7 @@ func Behind(r []int) ([]int, error) {
 			return nil, api.ErrRange
 		}
 	}
-	behind := reached(r)
+	behind := set.Reached(r)
 	for i, s := range behind {
 		if set.Has(s, i) {
 			return nil, api.ErrClash
@@ -69,20 +69,4 @@ func With(r []int, a, b int) ([]int, error) {
 	}
 	behind[a] |= 1 << b
 	return Behind(behind)
-}
-
-// reached tells of each thing all that its row leads to, over others, too.
-func reached(r []int) []int {
-	all := make([]int, len(r))
-	copy(all, r)
-	// Each round leads at least one step further, and no way that
-	// comes to a thing for the first time has more steps than there are things.
-	for range r {
-		for i := range all {
-			for j := range set.Things(all[i]) {
-				all[i] |= all[j]
-			}
-		}
-	}
-	return all
 }

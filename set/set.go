@@ -31,3 +31,19 @@ func Is(s, n int) bool { return s >= 0 && s>>n == 0 }
 
 // IsThing tells whether a number is one of n things.
 func IsThing(i, n int) bool { return i >= 0 && i < n }
+
+// Reached tells of each of some things, of each of which there is a set of them, all to which its set leads, over others, too.
+func Reached(r []int) []int {
+	all := make([]int, len(r))
+	copy(all, r)
+	// Each round leads at least one step further, and no way that
+	// comes to a thing for the first time has more steps than there are things.
+	for range r {
+		for i := range all {
+			for j := range Things(all[i]) {
+				all[i] |= all[j]
+			}
+		}
+	}
+	return all
+}

@@ -71,3 +71,24 @@ func TestIs(t *testing.T) {
 		}
 	}
 }
+
+// TestReached: each thing to which a set leads, over others, too, also itself where a ring does; and what is handed in stays.
+func TestReached(t *testing.T) {
+	for _, c := range []struct{ r, want []int }{
+		{nil, nil},
+		{[]int{0}, []int{0}},
+		{[]int{1}, []int{1}},
+		{[]int{2, 4, 8, 0}, []int{14, 12, 8, 0}},
+		{[]int{0, 1, 2, 4}, []int{0, 1, 3, 7}},
+		{[]int{2, 1, 1, 0}, []int{3, 3, 3, 0}},
+		{[]int{2, 4, 1, 1, 0}, []int{7, 7, 7, 7, 0}},
+		{[]int{16, 0, 2, 4, 8}, []int{30, 0, 2, 6, 14}},
+		{[]int{2, 4, 8, 16, 1}, []int{31, 31, 31, 31, 31}},
+		{[]int{16, 1, 2, 4, 8}, []int{31, 31, 31, 31, 31}},
+	} {
+		r := slices.Clone(c.r)
+		if got := set.Reached(r); !slices.Equal(got, c.want) || !slices.Equal(r, c.r) {
+			t.Errorf("Reached %v: got %v, want %v; %v is left", c.r, got, c.want, r)
+		}
+	}
+}
